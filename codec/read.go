@@ -7,37 +7,12 @@ import (
 	"saltern/api"
 	"saltern/huff"
 	"saltern/lz"
-	"saltern/word"
+	"saltern/parse"
 )
-
-// fault is what reading panics with where bytes are no code's.
-type fault struct{}
-
-// need is a fault where something does not hold.
-func need(holds bool) {
-	if !holds {
-		panic(fault{})
-	}
-}
-
-// caught is what reading answers, or ErrCode where it came upon a fault.
-func caught[T any](read func() T) (x T, e api.Errno) {
-	defer func() {
-		r := recover()
-		if r == nil {
-			return
-		}
-		if _, ok := r.(fault); !ok {
-			panic(r) // a mistake of the program, not of what it reads
-		}
-		e = api.ErrCode
-	}()
-	return read(), api.OK
-}
 
 // rest is what is left to be read.
 type rest struct {
-	left []byte
+	parse.Rest
 }
 
 // head is what a row's code says of the row ahead of all else.
@@ -46,50 +21,34 @@ type head struct {
 	packed bool
 }
 
-// next takes a byte.
-func (r *rest) next() byte {
-	need(len(r.left) > 0)
-	c := r.left[0]
-	r.left = r.left[1:]
-	return c
-}
-
-// number takes a varint that is at most so much.
-func (r *rest) number(most int) int {
-	x, n, e := word.Read(r.left)
-	need(e == api.OK && x <= uint64(most))
-	r.left = r.left[n:]
-	return int(x)
-}
-
 // lengths takes n lengths.
 func (r *rest) lengths(n int) []int {
 	var l []int
 	for len(l) < n {
-		length := int(r.next())
-		many := r.number(n - len(l))
+		length := int(r.Byte())
+		many := r.Number(n - len(l))
 		l = append(l, slices.Repeat([]int{length}, many)...)
 	}
 	return l
 }
 
 func (r *rest) head() head {
-	form := r.next()
-	need(form == stored || form == packed)
-	return head{r.number(api.MaxRaw), form == packed}
+	form := r.Byte()
+	parse.Need(form == stored || form == packed)
+	return head{r.Number(api.MaxRaw), form == packed}
 }
 
 // row is the one of which all that is left is the code.
 func (r *rest) row() []byte {
 	h := r.head()
 	if !h.packed {
-		need(len(r.left) == h.size)
-		return bytes.Clone(r.left)
+		parse.Need(r.Len() == h.size)
+		return bytes.Clone(r.Take(h.size))
 	}
-	l, e := Unpack(r.left)
-	need(e == api.OK)
+	l, e := Unpack(r.Take(r.Len()))
+	parse.Need(e == api.OK)
 	row, _, e := lz.Bytes(l...)
-	need(e == api.OK && len(row) == h.size)
+	parse.Need(e == api.OK && len(row) == h.size)
 	return row
 }
 
@@ -103,7 +62,7 @@ type reader struct {
 // bit takes one.
 func (r *reader) bit() int {
 	if r.n == 0 {
-		r.last, r.n = r.next(), byteBits
+		r.last, r.n = r.Byte(), byteBits
 	}
 	r.n--
 	return int(r.last>>r.n) & 1
@@ -113,7 +72,7 @@ func (r *reader) bit() int {
 func (r *reader) tokens() []api.Token {
 	first := treeOf(r.lengths(symbols))
 	second := treeOf(r.lengths(distances))
-	n := r.number(api.MaxRaw) // each makes at least a byte
+	n := r.Number(api.MaxRaw) // each makes at least a byte
 	var l []api.Token         // made as they come: there may be far fewer
 	for range n {
 		l = append(l, r.token(first, second))
@@ -138,7 +97,7 @@ func (r *reader) symbol(t tree) int {
 	at := 0
 	for at >= 0 {
 		at = t[at][r.bit()]
-		need(at != nothing)
+		parse.Need(at != nothing)
 	}
 	return ^at
 }
@@ -154,7 +113,7 @@ const nothing = 0
 
 func treeOf(lengths []int) tree {
 	codes, e := huff.Codes(lengths)
-	need(e == api.OK)
+	parse.Need(e == api.OK)
 	t := tree{{}}
 	for s, n := range lengths {
 		if n > 0 {
