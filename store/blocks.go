@@ -1,51 +1,22 @@
 package store
 
 import (
-	"bytes"
-	"slices"
-
 	"saltern/api"
+	"saltern/blocks"
 	"saltern/disk"
-	"saltern/pack"
 )
-
-// read is what some blocks hold.
-func read(d *disk.Disk, x api.Extent) ([]byte, api.Errno) {
-	var all []byte
-	for i := range x.N {
-		b, e := d.Read(x.At + i)
-		if e != api.OK {
-			return nil, e
-		}
-		all = append(all, b...)
-	}
-	return all, api.OK
-}
 
 // lay writes a chunk's blocks. Its head claims them until all of them last, for
 // what is put may look like heads, too.
-func lay(d *disk.Disk, at int, blocks []byte) api.Errno {
-	first, others := blocks[:api.Block], blocks[api.Block:]
-	if e := settle(d, at, marked(first, claimed)); e != api.OK {
+func lay(d *disk.Disk, at int, row []byte) api.Errno {
+	first, others := row[:api.Block], row[api.Block:]
+	if e := blocks.Settle(d, at, marked(first, claimed)); e != api.OK {
 		return e
 	}
-	if len(others) > 0 {
-		if e := settle(d, at+1, others); e != api.OK {
-			return e
-		}
+	if e := blocks.Settle(d, at+1, others); e != api.OK {
+		return e
 	}
-	return settle(d, at, first)
-}
-
-// settle writes blocks, one behind the other, and has them last.
-func settle(d *disk.Disk, at int, blocks []byte) api.Errno {
-	for b := range slices.Chunk(blocks, api.Block) {
-		if e := d.Write(at, b); e != api.OK {
-			return e
-		}
-		at++
-	}
-	return synced(d)
+	return blocks.Settle(d, at, first)
 }
 
 // drop claims the blocks of chunks, and erases them.
@@ -59,7 +30,7 @@ func drop(d *disk.Disk, row ...api.Extent) api.Errno {
 			return e
 		}
 	}
-	if e := synced(d); e != api.OK {
+	if e := blocks.Sync(d); e != api.OK {
 		return e
 	}
 	return erase(d, row)
@@ -68,44 +39,13 @@ func drop(d *disk.Disk, row ...api.Extent) api.Errno {
 // erase clears the places last: as long as they stand, what is left behind them
 // is not taken for heads.
 func erase(d *disk.Disk, row []api.Extent) api.Errno {
-	var places, behind []int
+	var places, behind []api.Extent
 	for _, x := range row {
-		places = append(places, x.At)
-		for i := 1; i < x.N; i++ {
-			behind = append(behind, x.At+i)
-		}
+		places = append(places, api.Extent{At: x.At, N: 1})
+		behind = append(behind, api.Extent{At: x.At + 1, N: x.N - 1})
 	}
-	if e := wipe(d, behind); e != api.OK {
+	if e := blocks.Wipe(d, behind...); e != api.OK {
 		return e
 	}
-	return wipe(d, places)
-}
-
-// wipe clears those of some blocks that are not clear yet.
-func wipe(d *disk.Disk, blocks []int) api.Errno {
-	empty := pack.Erased()
-	written := 0
-	for _, i := range blocks {
-		b, e := d.Read(i)
-		if e != api.OK {
-			return e
-		}
-		if bytes.Equal(b, empty) {
-			continue
-		}
-		if e := d.Write(i, empty); e != api.OK {
-			return e
-		}
-		written++
-	}
-	if written == 0 {
-		return api.OK
-	}
-	return synced(d)
-}
-
-// synced has all writes last.
-func synced(d *disk.Disk) api.Errno {
-	_, e := d.Sync()
-	return e
+	return blocks.Wipe(d, places...)
 }

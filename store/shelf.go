@@ -5,6 +5,7 @@ import (
 	"slices"
 
 	"saltern/api"
+	"saltern/blocks"
 	"saltern/disk"
 	"saltern/pack"
 	"saltern/region"
@@ -36,7 +37,7 @@ func (s *shelf) get(d api.Digest) ([]byte, api.Errno) {
 }
 
 // put has the blocks of a digest's chunk there.
-func (s *shelf) put(d api.Digest, blocks []byte) api.Errno {
+func (s *shelf) put(d api.Digest, row []byte) api.Errno {
 	free := s.free
 	if x, there := s.chunks[d]; there {
 		if _, _, e := chunkAt(s.device, x); e != api.ErrDamaged {
@@ -47,14 +48,14 @@ func (s *shelf) put(d api.Digest, blocks []byte) api.Errno {
 		}
 		free = given(free, x)
 	}
-	x, left, e := region.Take(api.MaxBlocks, free, len(blocks)/api.Block)
+	x, left, e := region.Take(api.MaxBlocks, free, len(row)/api.Block)
 	if e != api.OK {
 		// What was damaged has been dropped, though there is no room for it anew.
 		delete(s.chunks, d)
 		s.free = free
 		return e
 	}
-	if e := lay(s.device, x.At, blocks); e != api.OK {
+	if e := lay(s.device, x.At, row); e != api.OK {
 		return e
 	}
 	s.chunks[d] = x
@@ -82,7 +83,7 @@ func (s *shelf) dropAll(some map[api.Digest]api.Extent) (int, api.Errno) {
 
 // chunkAt is the chunk that stands in some blocks, and the digest that they say.
 func chunkAt(d *disk.Disk, x api.Extent) ([]byte, api.Digest, api.Errno) {
-	b, e := read(d, x)
+	b, e := blocks.Read(d, x)
 	if e != api.OK {
 		return nil, api.Digest{}, e
 	}
