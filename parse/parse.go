@@ -3,32 +3,22 @@ package parse
 
 import (
 	"saltern/api"
+	"saltern/halt"
 	"saltern/word"
 )
 
-// fault is what reading panics with where bytes are not what they should be.
-type fault struct{}
-
 // Need is a fault where something does not hold: it may be called within Caught alone, and so may a Rest's methods.
 func Need(holds bool) {
-	if !holds {
-		panic(fault{})
-	}
+	halt.Unless(holds, api.ErrArg) // whose place another error takes, which Caught is handed
 }
 
 // Caught is what reading answers, or the error e where it came upon a fault.
-func Caught[T any](e api.Errno, read func() T) (x T, told api.Errno) {
-	defer func() {
-		r := recover()
-		if r == nil {
-			return
-		}
-		if _, ok := r.(fault); !ok {
-			panic(r) // a mistake of the program, not of what it reads
-		}
-		told = e
-	}()
-	return read(), api.OK
+func Caught[T any](e api.Errno, read func() T) (T, api.Errno) {
+	x, fault := halt.Caught(read)
+	if fault != api.OK {
+		return x, e
+	}
+	return x, api.OK
 }
 
 // Rest is what is left to be read; a layer's reader embeds it.
